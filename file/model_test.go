@@ -325,7 +325,7 @@ func crashes(steps int) [][]bool {
 		but[i] = false
 		lists = append(lists, alone, but, all[:i])
 	}
-	if steps > 6 {
+	if steps > 7 {
 		return lists
 	}
 	for mix := range 1 << steps {
