@@ -397,12 +397,20 @@ func TestFindInMany(t *testing.T) {
 		l = append(l, [2]int{3 * i, 2 * (i / 5)})
 	}
 	for n := 0; n < 70000*3; n += 1 + n%101 {
-		finds(t, l, n, l[n/3])
+		// The list is too long to be printed at each fault.
+		if p, e := Find(l, n); p != l[n/3] || e != api.OK {
+			t.Fatal(n, p, e)
+		}
 	}
-	finds(t, l, 209997, [2]int{209997, 27998})
-	finds(t, l, math.MaxInt, [2]int{209997, 27998})
+	for _, n := range []int{209997, 210000, math.MaxInt} {
+		if p, e := Find(l, n); p != [2]int{209997, 27998} || e != api.OK {
+			t.Fatal(n, p, e)
+		}
+	}
 	l[69999][0] = l[69998][0]
-	refusesFind(t, l, 0)
+	if p, e := Find(l, 0); p != ([2]int{}) || e != api.ErrArg {
+		t.Fatal(p, e)
+	}
 }
 
 // P9.1 and P9.3 of every list of up to six sizes from 0 to 3.
